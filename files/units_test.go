@@ -60,6 +60,19 @@ func TestPathsIncrease(t *testing.T) {
 	refuses(t, "the same path with another tree", units("a:", "b: a", "b:"))
 }
 
+// P6.2: of all orders of four units, of which some may be there twice or not at
+// all, only those are valid in which the paths increase.
+func TestEveryOrder(t *testing.T) {
+	for _, lines := range sequences([]string{"a:", "b:", "c:", "d:"}, 4) {
+		isIncreasing := slices.IsSorted(lines) && len(slices.Compact(slices.Clone(lines))) == len(lines)
+		if l := units(lines...); isIncreasing {
+			accepts(t, "increasing paths", l)
+		} else {
+			refuses(t, "paths that do not increase", l)
+		}
+	}
+}
+
 // P6.2: no two imports of a unit have the same path, public or not.
 func TestImportsDiffer(t *testing.T) {
 	for _, imports := range []string{"a a", "a +a", "+a a", "+a +a", "a b a", "b a a", "a b b", "a b a b"} {
