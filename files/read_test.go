@@ -126,7 +126,7 @@ func wrongTexts() []string {
 	return []string{
 		"", ";", "syntax", `syntax="proto2";`, head + "message M{", head + "message M{int32 a=1}", head + `import"a b";`, head + `import"";`,
 		head + "@", head + "08", head + `import"`, head + `import"\400";`, head + "message M{int32 a=4294967296;}",
-		head + strings.Repeat("message M{", 9), head + strings.Repeat("message M{}", 129), head + strings.Repeat(`import"f";`, 17),
+		head + strings.Repeat("message M{", 9), head + strings.Repeat("message M{", 8) + "message {", head + strings.Repeat("message M{}", 129), head + strings.Repeat(`import"f";`, 17),
 		head + strings.Repeat(" ", api.MaxText), head + "\xff", head + "package a;package b;",
 	}
 }

@@ -14,6 +14,7 @@ import (
 func TestTidyErrors(t *testing.T) {
 	long := head + "message M{T a=1[json_name='" + strings.Repeat("k", api.MaxText) + "'];}"
 	deep := head + strings.Repeat("message M{", api.MaxDeep+1)
+	nameless := head + strings.Repeat("message M{", api.MaxDeep) + "message {"
 	for _, c := range []struct {
 		s    string
 		at   int
@@ -23,6 +24,7 @@ func TestTidyErrors(t *testing.T) {
 		{head + "message M{int32 a=1}", 35, api.ErrSyntax}, {head + `message M{reserved "1";}`, 35, api.ErrSyntax},
 		{head + `import "\q";`, 23, api.ErrQuote}, {head + "enum E{A=2147483649;}", 25, api.ErrRange},
 		{head + strings.Repeat("import'a';", 17), 16 + 160, api.ErrLimit}, {deep, len(deep) - 2, api.ErrDeep},
+		{nameless, len(nameless) - 1, api.ErrSyntax}, {nameless[:len(nameless)-1], len(nameless) - 1, api.ErrSyntax},
 		{head + "message M{reserved 5 to 4;}", 40, api.ErrSyntax}, {head + "enum E{option=1;}", 23, api.ErrSyntax},
 	} {
 		fails(t, c.s, c.at, c.want)

@@ -6,6 +6,7 @@ import (
 	"testing"
 
 	"signetry/api"
+	"signetry/text"
 )
 
 // list is a list in a scope: what stands around it, an element with its number
@@ -272,13 +273,35 @@ func TestDepth(t *testing.T) {
 		marked(t, api.ErrDeep, before+"message /**/ @message{")
 		marked(t, api.ErrSyntax, before+"@option message M{}")
 		marked(t, api.ErrSyntax, before+"a @=1;message M{}")
-		// It comes ahead of what is wrong with the same token.
-		for _, k := range []string{"{}", "5", "'M'", ".M{}", "", "}", "=1;"} {
-			marked(t, api.ErrDeep, before+"message @"+k)
-		}
 	}
 	// A oneof, an enum and a service are no message.
 	accepts(t, head+open(8)+"oneof message{message message=1;}enum message{message=0;}.message b=1;"+shut(8))
 	marked(t, api.ErrSyntax, open(7)+"message @{")
 	accepts(t, head+strings.Repeat(open(8)+shut(8), 100))
+}
+
+// P4.1: what is nested too deeply is told at its identifier, which may be a
+// keyword; any other token in the place of that is not allowed there.
+func TestDepthWithoutIdentifier(t *testing.T) {
+	open := func(count int) string { return counted("message M%{", "", count) }
+	for _, before := range []string{open(8), "message A{}" + open(8), open(8) + "a b=1;enum E{}oneof o{}", open(7) + "message A{}message B{", open(8) + "}}}" + open(3)} {
+		for _, gap := range []string{" ", "/**/", " // message M\n"} {
+			marked(t, api.ErrSyntax, before+"message"+gap+"@")
+			for _, k := range alphabet() {
+				want := api.ErrSyntax
+				if text.IsIdent(k) {
+					want = api.ErrDeep
+				}
+				for _, after := range []string{"", "{}", " M{}", ";", " message N{"} {
+					marked(t, want, before+"message"+gap+"@"+k+after)
+				}
+			}
+		}
+	}
+	// Where it is not too deep, no identifier is the same error.
+	for deep := range 8 {
+		for _, k := range []string{"{}", "5", "'M'", ".M{}", "", "}", "=1;"} {
+			marked(t, api.ErrSyntax, open(deep)+"message @"+k)
+		}
+	}
 }

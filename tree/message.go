@@ -16,10 +16,11 @@ type message struct {
 
 func readMessage(x *parser, deep int) api.MsgDef {
 	x.pass()
-	if deep > api.MaxDeep {
-		x.stopHere(api.ErrDeep)
-	}
+	// Only an identifier is too deep: any other token is not allowed here at all.
 	w := x.of(api.WordIdent)
+	if deep > api.MaxDeep {
+		panic(stop{w.At, api.ErrDeep})
+	}
 	m := &message{parser: x, def: api.MsgDef{Name: w.Text, At: w.At}, deep: deep}
 	m.block(m.elements(), m.plain)
 	return m.def
