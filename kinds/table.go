@@ -26,14 +26,10 @@ type kind struct {
 	below, above        uint64
 }
 
-var (
-	once  sync.Once
-	table [17]kind
-)
-
-// fill writes the table.
-func fill() {
-	table = [17]kind{
+// types is the table: what most of the exported functions look types up in, so that
+// their answers hang on nothing that is kept.
+func types() [17]kind {
+	return [17]kind{
 		{api.TInt32, "int32", 1, wireVarint, api.KInt, 1 << 31, 1<<31 - 1},
 		{api.TInt64, "int64", 1, wireVarint, api.KInt, 1 << 63, 1<<63 - 1},
 		{api.TUint32, "uint32", 1, wireVarint, api.KInt, 0, 1<<32 - 1},
@@ -54,11 +50,25 @@ func fill() {
 	}
 }
 
-// rows traverses the table.
-func rows() iter.Seq[kind] {
+// The table that is created once; Name looks types up in it.
+var (
+	once  sync.Once
+	table [17]kind
+)
+
+// fill writes it.
+func fill() { table = types() }
+
+// created is the table that was created once.
+func created() [17]kind {
 	once.Do(fill)
+	return table
+}
+
+// rows traverses a table.
+func rows(of [17]kind) iter.Seq[kind] {
 	return func(yield func(kind) bool) {
-		for _, k := range table {
+		for _, k := range of {
 			if !yield(k) {
 				return
 			}
@@ -66,9 +76,9 @@ func rows() iter.Seq[kind] {
 	}
 }
 
-// first is the first row of its sort, or one of no type.
-func first(is func(kind) bool) kind {
-	for k := range rows() {
+// first is the first row of its sort in a table, or one of no type.
+func first(of [17]kind, is func(kind) bool) kind {
+	for k := range rows(of) {
 		if is(k) {
 			return k
 		}
@@ -76,7 +86,10 @@ func first(is func(kind) bool) kind {
 	return kind{wire: noWire}
 }
 
-// ofType is the row of a type, or one of no type.
-func ofType(t int) kind {
-	return first(func(k kind) bool { return k.number == t })
+// numbered is the row of a type in a table, or one of no type.
+func numbered(of [17]kind, t int) kind {
+	return first(of, func(k kind) bool { return k.number == t })
 }
+
+// ofType is the row of a type, or one of no type.
+func ofType(t int) kind { return numbered(types(), t) }
